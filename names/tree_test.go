@@ -276,6 +276,9 @@ func checkFinds(t *testing.T, l []syn.Node) {
 
 // P6.1, P6.2, R1, R4, R5: programs at random, of which nothing or some things are spoilt.
 func TestPrograms(t *testing.T) {
+	if testing.Short() {
+		t.Skip("it takes a few seconds")
+	}
 	m := &maker{r: rand.New(rand.NewSource(6))}
 	var seen [faults + 1]int
 	for range 10000 {
