@@ -513,6 +513,22 @@ func TestFaultyNames(t *testing.T) {
 	}
 }
 
+// P10.1: an On holds up its name beside whom the expression names, where no clock fits, too: else these are behind it.
+func TestOnsBesideNames(t *testing.T) {
+	of := func(name string) syn.Expr { return syn.Expr{Op: "var", Name: name} }
+	n := syn.Node{Locals: []syn.Var{{Name: "k"}, {Name: "a", On: "k"}, {Name: "b"}, {Name: "d"}}, Eqs: []syn.Eq{{Name: "a", E: of("b"), At: 1}, {Name: "k", E: of("d"), At: 2}}}
+	holdLeans(t, n, "a", "k b")
+	holdOrder(t, n, "b d k a")
+	if f := cau.Check([]syn.Node{n}); f != (api.Fault{}) {
+		t.Errorf("P10.1: Check of an On that has no fault: %v at %d", f.Err, f.At)
+	}
+	n.Eqs = append(n.Eqs, syn.Eq{Name: "d", E: of("a"), At: 3})
+	holdOrder(t, n, "none")
+	if f := cau.Check([]syn.Node{n}); f != (api.Fault{Err: api.ECAUSE, At: 1}) {
+		t.Errorf("P10.1: Check of an On that leans on whom it is the On of: %v at %d", f.Err, f.At)
+	}
+}
+
 // R1: trees of 2^16 parts nested in one another.
 func TestDeepTrees(t *testing.T) {
 	const count = 1<<16 - 2
