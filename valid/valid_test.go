@@ -326,6 +326,72 @@ func TestReads(t *testing.T) {
 	}
 }
 
+// P16.1: rule 4: of each Op all that it reads, one by one, and nothing else.
+func TestEachRead(t *testing.T) {
+	for number, names := range operands() {
+		kinds := []api.Kind{ki, ki, ki}
+		switch {
+		case number >= 13 && number <= 15:
+			kinds[0] = kb
+		case number == 6 || number >= 16:
+			kinds = []api.Kind{kb, kb, kb}
+		}
+		for missing := range 3 {
+			p := code.Program{Ins: []api.Kind{ki}, Slots: kinds, Mems: []api.Kind{ki}, Consts: []int64{0}}
+			if number == 5 {
+				p.Outs = []api.Kind{ki}
+			}
+			for s := range 3 {
+				if s != missing {
+					p.Code = append(p.Code, code.Instr{Op: 0, A: s})
+				}
+			}
+			v := [3]int{0, 1, 2}
+			for k, name := range names {
+				switch name {
+				case "slot":
+				case "target":
+					v[k] = 3
+				default:
+					v[k] = 0
+				}
+			}
+			p.Code = append(p.Code, code.Instr{Op: number, A: v[0], B: v[1], C: v[2]})
+			what := code.Name(number) + " without slot " + strconv.Itoa(missing)
+			if missing > 0 && missing < len(names) && names[missing] == "slot" {
+				hold(t, what, p, 2, 4)
+			} else {
+				hold(t, what, p, 0, 0)
+			}
+		}
+	}
+}
+
+// P16.1, R1: the last slot and the last output, however many there are, and however few instructions.
+func TestLastOnes(t *testing.T) {
+	for slots := 1; slots <= api.MaxSlots; slots++ {
+		last := strconv.Itoa(slots - 1)
+		for _, outs := range []int{0, 1, 2, api.MaxVars - 1, api.MaxVars} {
+			what := "slot " + last + " with outputs: " + strconv.Itoa(outs)
+			p := code.Program{Slots: slices.Repeat([]api.Kind{ki}, slots), Outs: slices.Repeat([]api.Kind{ki}, outs), Consts: []int64{7}}
+			p.Code = read("neg " + last + " " + last)
+			hold(t, what, p, 0, 4)
+			p.Code = read("const " + last + " 0; neg " + last + " " + last)
+			if outs == 0 {
+				hold(t, what, p, 0, 0)
+				continue
+			}
+			hold(t, what, p, 2, 5)
+			p.Code = append(p.Code, read("out "+strconv.Itoa(outs-1)+" "+last)...)
+			if outs == 1 {
+				hold(t, what, p, 0, 0)
+			} else {
+				hold(t, what, p, 3, 5)
+			}
+		}
+	}
+}
+
 // P16.1: rule 5: at the end each output was written on each way.
 func TestOutputs(t *testing.T) {
 	for text, fine := range map[string]bool{
