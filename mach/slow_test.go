@@ -17,8 +17,18 @@ import (
 
 // slow is a machine that goes by the words in which instructions are told, and reckons with numbers of any size.
 type slow struct {
-	p    code.Program
-	mems []*big.Int
+	p     code.Program
+	mems  []*big.Int
+	ticks uint64
+}
+
+// state is the bytes of where it stands, by the library's numbers.
+func (s *slow) state() []byte {
+	var mems []int64
+	for _, v := range s.mems {
+		mems = append(mems, v.Int64())
+	}
+	return state(s.ticks, mems...)
 }
 
 // wrapped is that number as far as 64 bits hold it.
@@ -69,6 +79,7 @@ func reckoned(name string, a, b *big.Int) *big.Int {
 // step tells the outputs, and how many instructions were done.
 func (s *slow) step(in api.Row) (api.Row, int) {
 	slots, out, done := map[int]*big.Int{}, make(api.Row, len(s.p.Outs)), 0
+	s.ticks++
 	for at := 0; at < len(s.p.Code); done++ {
 		words := append(strings.Fields(code.Show(s.p.Code[at])), "0", "0")
 		a, _ := strconv.Atoi(words[1])
@@ -190,8 +201,8 @@ func (m *maker) row() api.Row {
 	return r
 }
 
-// P17.1, T2, R5: programs at random, against the slow machine: each step is done in at most as many instructions as there
-// are.
+// P17.1, P17.2, T2, R5: programs at random, against the slow machine: each step is done in at most as many instructions as
+// there are. One machine is only stepped, the other is left on the way for a copy, or for one that its state was loaded in.
 func TestLikeSlow(t *testing.T) {
 	m := &maker{Rand: rand.New(rand.NewSource(17))}
 	for round := range 600 {
@@ -216,6 +227,16 @@ func TestLikeSlow(t *testing.T) {
 			if out := step(t, fast, in...); !slices.Equal(out, want) || !slices.Equal(step(t, again, in...), want) {
 				t.Fatalf("P17.1: Step of %v: %v, want %v: %+v", in, out, want, p)
 			}
+			stands(t, "a random program", fast, s.state())
+			switch m.Intn(6) {
+			case 0:
+				again = again.Copy()
+			case 1:
+				left := again.State()
+				again = machine(t, p)
+				load(t, "a random program", again, left)
+			}
+			stands(t, "a random program, on other ways", again, s.state())
 		}
 	}
 }
